@@ -407,6 +407,23 @@ func TestGreat(t *testing.T) {
 	}
 }
 
+// TestRows is of very many values, all of one size, of which no two are the same.
+func TestRows(t *testing.T) {
+	part := value.List(make([]value.Value, 300)...)
+	rows := make([]value.Value, 200000)
+	for i := range rows {
+		rows[i] = value.List(part, value.Int(i))
+	}
+	k := typeOf(t, "list([list(int),int])")
+	if way, wrong := k.Wrong(value.List(rows...)); wrong {
+		t.Errorf("Wrong: %s", text.Path(way...))
+	}
+	rows[199999] = value.List(part, value.Text("x"))
+	if way, wrong := k.Wrong(value.List(rows...)); !wrong || text.Path(way...) != "[199999][1]" {
+		t.Errorf("Wrong: %s, %t", text.Path(way...), wrong)
+	}
+}
+
 // TestVeryDeep is of values that are deeper than any type.
 func TestVeryDeep(t *testing.T) {
 	v := value.Unset()

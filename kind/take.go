@@ -1,35 +1,24 @@
 package kind
 
 import (
-	"math"
-	"slices"
-
 	"flange/api"
 	"flange/value"
 )
 
-const (
-	// many is how many values are gone through in any case, however often each of them stands there.
-	many = 1 << 22
-	// few is how many values one has that is rather gone through again than looked for.
-	few = 1 << 8
-)
+// few is how many values one has that is rather gone through again than looked for.
+const few = 1 << 8
+
+// taken is a List or a Map that a type has taken. (Two of them are equal if they are one in memory, which shows without going into them.)
+type taken struct {
+	kind *Type
+	v    value.Value
+}
 
 // seeker goes into a value by a type; where it isn't taken it stops, and its way leads there.
 type seeker struct {
 	way []value.Step
-	// What each type has taken, of values with at least so many others: one may stand in another in many places, and this one again, so that going through all of them might not come to an end.
-	taken map[*Type][]value.Value
-	least int
-}
-
-// newSeeker is one that goes into this value.
-func newSeeker(v value.Value) *seeker {
-	s := &seeker{taken: make(map[*Type][]value.Value), least: few}
-	if v.Size() <= many {
-		s.least = math.MaxInt
-	}
-	return s
+	// One value may stand in another in many places, and this one again, so that going through all of them might not come to an end.
+	seen map[taken]struct{}
 }
 
 // takes tells whether a type takes a value.
@@ -43,23 +32,17 @@ func (s *seeker) takes(t *Type, v value.Value) bool {
 	if t.form.holds() != v.Kind() {
 		return false
 	}
-	if v.Size() < s.least {
+	if v.Size() < few {
 		return s.takesAll(t, v)
 	}
-	if s.tookAlready(t, v) {
+	if _, ok := s.seen[taken{t, v}]; ok {
 		return true
 	}
 	ok := s.takesAll(t, v)
 	if ok {
-		s.taken[t] = append(s.taken[t], v)
+		s.seen[taken{t, v}] = struct{}{}
 	}
 	return ok
-}
-
-func (s *seeker) tookAlready(t *Type, v value.Value) bool {
-	return slices.ContainsFunc(s.taken[t], func(x value.Value) bool {
-		return value.Same(x, v)
-	})
 }
 
 // takesAll tells whether a type takes each of the values in one, and misses none.
